@@ -4,6 +4,7 @@ import (
 	"slices"
 
 	"goodname/api"
+	"goodname/order"
 )
 
 // facts are those of one account that stand, by About.
@@ -25,7 +26,7 @@ func (f facts) ofKind(kind uint8) facts {
 // ids returns the facts' Ids in increasing order.
 func (f facts) ids() []int {
 	var out []int
-	for _, r := range inOrder(slices.Values(f), idOf) {
+	for _, r := range order.By(slices.Values(f), idOf) {
 		out = append(out, r.Id)
 	}
 	return out

@@ -5,6 +5,7 @@ import (
 	"slices"
 
 	"goodname/api"
+	"goodname/order"
 )
 
 // knowledge is what is known on a day. Its store has the reports that are not
@@ -95,7 +96,7 @@ func (k knowledge) standing() iter.Seq[api.Report] {
 		}
 		l = append(l, r)
 	}
-	return slices.Values(inOrder(slices.Values(l), aboutOf, idOf))
+	return slices.Values(order.By(slices.Values(l), aboutOf, idOf))
 }
 
 // of returns the facts of an account that stand, with an About of at most a day.

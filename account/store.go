@@ -1,12 +1,11 @@
 package account
 
 import (
-	"cmp"
-	"iter"
 	"maps"
 	"slices"
 
 	"goodname/api"
+	"goodname/order"
 )
 
 // store is reports by their Ids, so that each one is there once.
@@ -25,7 +24,7 @@ func newStore(l []api.Report, day int) store {
 
 // ofKind returns the reports of a kind by Made, and of the same Made by Id.
 func (s store) ofKind(kind uint8) []api.Report {
-	l := inOrder(maps.Values(s.reports), madeOf, idOf)
+	l := order.By(maps.Values(s.reports), madeOf, idOf)
 	return slices.DeleteFunc(l, func(r api.Report) bool { return r.Kind != kind })
 }
 
@@ -39,16 +38,3 @@ func (s store) named(r api.Report) (api.Report, bool) {
 func idOf(r api.Report) int    { return r.Id }
 func madeOf(r api.Report) int  { return r.Made }
 func aboutOf(r api.Report) int { return r.About }
-
-// inOrder returns the elements of a sequence by the first one of their numbers,
-// those that have the same by the next one, and so on.
-func inOrder[T any](l iter.Seq[T], numbers ...func(T) int) []T {
-	return slices.SortedFunc(l, func(a, b T) int {
-		for _, number := range numbers {
-			if c := cmp.Compare(number(a), number(b)); c != 0 {
-				return c
-			}
-		}
-		return 0
-	})
-}
