@@ -6,6 +6,7 @@ import (
 
 	"goodname/account"
 	"goodname/api"
+	"goodname/lines"
 )
 
 // format is how tapes of an age are written: up to which Kind reports have a line,
@@ -50,7 +51,7 @@ func (f format) write(l []api.Report) string {
 		text += f.line(rowOf(r)) + "\n"
 	}
 	t := tape{reports: l}
-	for line := range lines(text) {
+	for line := range lines.Of(text) {
 		t.next(line)
 	}
 	return text + t.end() + "\n"

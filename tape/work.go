@@ -1,12 +1,12 @@
 package tape
 
 import (
-	"iter"
 	"strconv"
 	"strings"
 
 	"goodname/account"
 	"goodname/api"
+	"goodname/lines"
 )
 
 const (
@@ -39,31 +39,12 @@ type tape struct {
 func read(text string) *tape {
 	need(len(text) <= api.MaxTape, 0, api.ErrLong)
 	t := &tape{}
-	for line, rest := range lines(text) {
+	for line, rest := range lines.Of(text) {
 		t.read(line, rest == "")
 		t.next(line)
 	}
 	t.need(t.ended, api.ErrLine)
 	return t
-}
-
-// lines yields the lines of a text, with their line feeds, and what follows each
-// one.
-func lines(text string) iter.Seq2[string, string] {
-	return func(yield func(line, rest string) bool) {
-		rest := text
-		for rest != "" {
-			n := strings.IndexByte(rest, '\n') + 1
-			if n == 0 {
-				n = len(rest)
-			}
-			line := rest[:n]
-			rest = rest[n:]
-			if !yield(line, rest) {
-				return
-			}
-		}
-	}
 }
 
 // need passes on the error of the line after those until now, unless something is
